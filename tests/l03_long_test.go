@@ -511,36 +511,46 @@ func spoil(list []int) {
 	}
 }
 
-func TestLongResultsShareNoMemory(t *testing.T) {
-	arguments := [][2][]int{
+// checkMemory asks whether a call writes into its arguments or behind them, and whether its results are new memory.
+func checkMemory(t *testing.T, name string, call func(a, c []int) [][]int, pair [2][]int) {
+	t.Helper()
+	m, n := len(pair[0]), len(pair[1])
+	// The memory behind the digits is seen by the caller.
+	a := append(slices.Clone(pair[0]), 77, 78, 79, 80)
+	c := append(slices.Clone(pair[1]), 87, 88, 89, 90)
+	before := [][]int{slices.Clone(a), slices.Clone(c)}
+	results := call(a[:m], c[:n])
+	kept := cloneAll(results)
+	for i := range results {
+		spoil(results[i])
+		for j := range results {
+			if j > i && !slices.Equal(results[j], kept[j]) {
+				t.Errorf("%s of %v: two results share memory", name, pair)
+			}
+		}
+	}
+	if !slices.Equal(a, before[0]) || !slices.Equal(c, before[1]) {
+		t.Errorf("%s of %v: the arguments and what is behind them are %v and %v", name, pair, a, c)
+	}
+	for i, again := range call(a[:m], c[:n]) {
+		if !slices.Equal(again, kept[i]) {
+			t.Errorf("%s of %v: a second call returns %v", name, pair, again)
+		}
+	}
+}
+
+// memoryPairs are arguments in base 10 for checkMemory.
+func memoryPairs() [][2][]int {
+	return [][2][]int{
 		{{3, 2, 1}, {2, 1}}, {{3, 2, 1}, {}}, {{}, {3, 2, 1}}, {{3, 2, 1}, {1}}, {{1}, {3, 2, 1}},
 		{{3, 2, 1}, {3, 2, 1}}, {{3, 2, 1}, {3, 2, 9}}, {{0, 0, 0, 1}, {1}}, {{}, {}}, {{9, 9}, {9, 9, 9}},
 	}
+}
+
+func TestLongResultsShareNoMemory(t *testing.T) {
 	for name, call := range longCalls() {
-		for _, pair := range arguments {
-			m, n := len(pair[0]), len(pair[1])
-			// The memory behind the digits is seen by the caller.
-			a := append(slices.Clone(pair[0]), 77, 78, 79, 80)
-			c := append(slices.Clone(pair[1]), 87, 88, 89, 90)
-			before := [][]int{slices.Clone(a), slices.Clone(c)}
-			results := call(a[:m], c[:n])
-			kept := cloneAll(results)
-			for i := range results {
-				spoil(results[i])
-				for j := range results {
-					if j > i && !slices.Equal(results[j], kept[j]) {
-						t.Errorf("%s of %v: two results share memory", name, pair)
-					}
-				}
-			}
-			if !slices.Equal(a, before[0]) || !slices.Equal(c, before[1]) {
-				t.Errorf("%s of %v: the arguments and what is behind them are %v and %v", name, pair, a, c)
-			}
-			for i, again := range call(a[:m], c[:n]) {
-				if !slices.Equal(again, kept[i]) {
-					t.Errorf("%s of %v: a second call returns %v", name, pair, again)
-				}
-			}
+		for _, pair := range memoryPairs() {
+			checkMemory(t, name, call, pair)
 		}
 	}
 }
