@@ -353,6 +353,21 @@ func checkNoPermutation(t *testing.T, list []int) {
 	checkList(t, next, ok, nil, false, "NextPermutation", list)
 }
 
+// oneChanged lists the lists that differ from this one in one item, which is one of the others for its index.
+func oneChanged(list []int, others func(i int) []int) [][]int {
+	lists := [][]int{}
+	for i := range list {
+		for _, other := range others(i) {
+			changed := slices.Clone(list)
+			changed[i] = other
+			if other != list[i] {
+				lists = append(lists, changed)
+			}
+		}
+	}
+	return lists
+}
+
 // noPermutations lists what are no permutations, most of them next to one.
 func noPermutations() [][]int {
 	lists := [][]int{
@@ -363,15 +378,9 @@ func noPermutations() [][]int {
 	for m := 1; m <= maxItems; m++ {
 		lists = append(lists, upTo(1, m), backward(upTo(1, m)), upTo(-1, m-2), slices.Repeat([]int{m - 1}, m+1), append(upTo(0, m-1), 0), append(upTo(0, m-1), m-1), append(upTo(0, m-1), -1), append(upTo(0, m-1), m+1))
 		for _, right := range [][]int{upTo(0, m-1), backward(upTo(0, m-1))} {
-			for i := range m {
-				for _, wrong := range []int{math.MinInt64, math.MinInt64 + 1, -m, -1, right[(i+1)%m], right[(i+m-1)%m], m, m + 1, maxItems, maxItems + 1, right[i] + 1<<32, math.MaxInt64 - 1, math.MaxInt64} {
-					changed := slices.Clone(right)
-					changed[i] = wrong
-					if wrong != right[i] {
-						lists = append(lists, changed)
-					}
-				}
-			}
+			lists = append(lists, oneChanged(right, func(i int) []int {
+				return []int{math.MinInt64, math.MinInt64 + 1, -m, -1, right[(i+1)%m], right[(i+m-1)%m], m, m + 1, maxItems, maxItems + 1, right[i] + 1<<32, math.MaxInt64 - 1, math.MaxInt64}
+			})...)
 		}
 	}
 	return lists
